@@ -85,7 +85,7 @@ func (f Family) full() club {
 	return 1<<f.Members - 1
 }
 
-// clubs yields copies: what ranges over it can not change the argument's clubs.
+// clubs yields copies: what ranges over it cannot change the argument's clubs.
 func (f Family) clubs() iter.Seq2[int, club] {
 	return func(yield func(int, club) bool) {
 		for place, set := range f.Clubs {
@@ -105,7 +105,7 @@ func (f Family) mapped(change func(club) club) Family {
 	return Family{Members: f.Members, Clubs: made}
 }
 
-// without drops each club that is beaten by another one; it compares with the club itself as well, so equal clubs never beat each other.
+// without asks beats of different sets only: equal clubs are not counted as others, and would drop each other.
 func (f Family) without(beats func(other, c club) bool) Family {
 	beaten := func(set int) bool {
 		for _, other := range f.clubs() {
