@@ -29,6 +29,10 @@ func (c club) with(member int) club {
 	return c | 1<<member
 }
 
+func (c club) without(member int) club {
+	return c &^ (1 << member)
+}
+
 func (c club) partOf(d club) bool {
 	return c&^d == 0
 }

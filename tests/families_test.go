@@ -8,35 +8,6 @@ import (
 	"loop.example/clubsandmembers/impl"
 )
 
-// outcome takes the result of any function of the chapter, so that one loop can look at all of them.
-type outcome struct {
-	members int
-	list    []int
-	number  int
-	ok      bool
-}
-
-func ofFamily(f impl.Family, ok bool) outcome {
-	return outcome{members: f.Members, list: f.Clubs, ok: ok}
-}
-
-func ofList(list []int, ok bool) outcome {
-	return outcome{list: list, ok: ok}
-}
-
-func ofNumber(number int, ok bool) outcome {
-	return outcome{number: number, ok: ok}
-}
-
-func (o outcome) same(p outcome) bool {
-	return o.members == p.members && o.number == p.number && o.ok == p.ok && slices.Equal(o.list, p.list)
-}
-
-type familyCall struct {
-	name string
-	call func(f impl.Family) outcome
-}
-
 // familyCalls give further arguments that are valid for each family with a club that is not full.
 func familyCalls() []familyCall {
 	return []familyCall{
@@ -68,23 +39,6 @@ func backwards(members int) []int {
 	return names
 }
 
-func wantFailed(t *testing.T, what string, o outcome) {
-	t.Helper()
-	if o.ok {
-		t.Errorf("%s succeeds", what)
-	}
-	if o.members != 0 || len(o.list) != 0 || o.number != 0 {
-		t.Errorf("%s fails, but other results are not zero values: %v", what, o)
-	}
-}
-
-func wantFamily(t *testing.T, what string, members int, clubs []int, o outcome) {
-	t.Helper()
-	if !o.same(outcome{members: members, list: clubs, ok: true}) {
-		t.Errorf("%s is %v, want members %d, clubs %v", what, o, members, clubs)
-	}
-}
-
 func TestFamilyLimits(t *testing.T) {
 	if impl.MembersMax != 6 || impl.ClubsMax != 8 {
 		t.Errorf("the limits are %d and %d", impl.MembersMax, impl.ClubsMax)
@@ -103,23 +57,6 @@ func TestFamilyInDoesNotHold(t *testing.T) {
 	for _, f := range noFamilies() {
 		if impl.FamilyIn(f) {
 			t.Errorf("FamilyIn holds for %v", f)
-		}
-	}
-}
-
-func TestFamilyCallsFailForNoFamilies(t *testing.T) {
-	for _, f := range noFamilies() {
-		for _, c := range familyCalls() {
-			wantFailed(t, c.name, c.call(f))
-		}
-	}
-}
-
-func TestFamilyCallsSucceed(t *testing.T) {
-	f := impl.Family{Members: 4, Clubs: []int{3, 0, 12, 12}}
-	for _, c := range familyCalls() {
-		if !c.call(f).ok {
-			t.Errorf("%s fails for %v", c.name, f)
 		}
 	}
 }

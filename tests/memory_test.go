@@ -50,9 +50,9 @@ func memoryFamilies() []impl.Family {
 	)
 }
 
-func TestFamilyCallsLeaveArgumentsAlone(t *testing.T) {
+func TestCallsLeaveArgumentsAlone(t *testing.T) {
 	for _, f := range memoryFamilies() {
-		for _, c := range familyCalls() {
+		for _, c := range everyCall() {
 			given := impl.Family{Members: f.Members, Clubs: roomy(f.Clubs)}
 			made := c.call(given)
 			wantUntouched(t, c.name, given.Clubs, f.Clubs)
@@ -62,9 +62,9 @@ func TestFamilyCallsLeaveArgumentsAlone(t *testing.T) {
 	}
 }
 
-func TestFamilyCallsFailingLeaveArgumentsAlone(t *testing.T) {
+func TestCallsFailingLeaveArgumentsAlone(t *testing.T) {
 	for _, f := range noFamilies() {
-		for _, c := range familyCalls() {
+		for _, c := range everyCall() {
 			given := impl.Family{Members: f.Members, Clubs: roomy(f.Clubs)}
 			c.call(given)
 			wantUntouched(t, c.name, given.Clubs, f.Clubs)
@@ -80,9 +80,9 @@ func TestFamilyInLeavesArgumentsAlone(t *testing.T) {
 	}
 }
 
-func TestFamilyResultsShareNoMemory(t *testing.T) {
+func TestResultsShareNoMemory(t *testing.T) {
 	for _, f := range memoryFamilies() {
-		for _, c := range familyCalls() {
+		for _, c := range everyCall() {
 			first := c.call(f)
 			kept := first
 			kept.list = slices.Clone(first.list)
@@ -99,9 +99,9 @@ func TestFamilyResultsShareNoMemory(t *testing.T) {
 }
 
 // What was made of a family must not follow when the family is changed later.
-func TestFamilyResultsDoNotFollowArguments(t *testing.T) {
+func TestResultsDoNotFollowArguments(t *testing.T) {
 	for _, f := range memoryFamilies() {
-		for _, c := range familyCalls() {
+		for _, c := range everyCall() {
 			given := impl.Family{Members: f.Members, Clubs: roomy(f.Clubs)}
 			made := c.call(given)
 			kept := made
@@ -129,9 +129,9 @@ func TestFamilyNamedLeavesNamesAlone(t *testing.T) {
 }
 
 // A nil list and an empty one are the same as arguments.
-func TestFamilyCallsTakeNilAsEmpty(t *testing.T) {
+func TestCallsTakeNilAsEmpty(t *testing.T) {
 	for members := 1; members <= impl.MembersMax; members++ {
-		for _, c := range familyCalls() {
+		for _, c := range everyCall() {
 			none, empty := c.call(impl.Family{Members: members}), c.call(impl.Family{Members: members, Clubs: []int{}})
 			if !none.same(empty) {
 				t.Errorf("%s tells %v for no list and %v for an empty one", c.name, none, empty)

@@ -1,0 +1,76 @@
+package tests
+
+import (
+	"slices"
+	"testing"
+
+	"loop.example/clubsandmembers/impl"
+)
+
+// outcome takes the result of any function of the chapters, so that one loop can look at all of them.
+type outcome struct {
+	members int
+	list    []int
+	number  int
+	ok      bool
+}
+
+func ofFamily(f impl.Family, ok bool) outcome {
+	return outcome{members: f.Members, list: f.Clubs, ok: ok}
+}
+
+func ofList(list []int, ok bool) outcome {
+	return outcome{list: list, ok: ok}
+}
+
+func ofNumber(number int, ok bool) outcome {
+	return outcome{number: number, ok: ok}
+}
+
+func (o outcome) same(p outcome) bool {
+	return o.members == p.members && o.number == p.number && o.ok == p.ok && slices.Equal(o.list, p.list)
+}
+
+type familyCall struct {
+	name string
+	call func(f impl.Family) outcome
+}
+
+// everyCall has the calls of all chapters built so far: what is tested of one is tested of all.
+func everyCall() []familyCall {
+	return slices.Concat(familyCalls(), alikeCalls())
+}
+
+func TestCallsFailForNoFamilies(t *testing.T) {
+	for _, f := range noFamilies() {
+		for _, c := range everyCall() {
+			wantFailed(t, c.name, c.call(f))
+		}
+	}
+}
+
+func TestCallsSucceed(t *testing.T) {
+	f := impl.Family{Members: 4, Clubs: []int{3, 0, 12, 12}}
+	for _, c := range everyCall() {
+		if !c.call(f).ok {
+			t.Errorf("%s fails for %v", c.name, f)
+		}
+	}
+}
+
+func wantFailed(t *testing.T, what string, o outcome) {
+	t.Helper()
+	if o.ok {
+		t.Errorf("%s succeeds", what)
+	}
+	if o.members != 0 || len(o.list) != 0 || o.number != 0 {
+		t.Errorf("%s fails, but other results are not zero values: %v", what, o)
+	}
+}
+
+func wantFamily(t *testing.T, what string, members int, clubs []int, o outcome) {
+	t.Helper()
+	if !o.same(outcome{members: members, list: clubs, ok: true}) {
+		t.Errorf("%s is %v, want members %d, clubs %v", what, o, members, clubs)
+	}
+}
