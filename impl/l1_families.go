@@ -56,6 +56,15 @@ func (c club) members() iter.Seq[int] {
 	}
 }
 
+// parts yields all sets that are a part of c, itself, too, in ascending order.
+func (c club) parts() iter.Seq[club] {
+	return func(yield func(club) bool) {
+		// Taking c off adds 1 and all members that are not in c: these carry the 1 on to the next member that is.
+		for part := club(0); yield(part) && part != c; part = (part - c) & c {
+		}
+	}
+}
+
 // named needs names that were checked: a place outside p would be out of range.
 func (c club) named(p []int) club {
 	var made club

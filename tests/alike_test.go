@@ -168,14 +168,5 @@ func TestAlikeInOfNoFamilies(t *testing.T) {
 }
 
 func TestAlikeInLeavesArgumentsAlone(t *testing.T) {
-	families := append(memoryFamilies(), impl.Family{Members: 3, Clubs: []int{9, 1}}, impl.Family{})
-	for _, f := range families {
-		for _, g := range families {
-			first := impl.Family{Members: f.Members, Clubs: roomy(f.Clubs)}
-			second := impl.Family{Members: g.Members, Clubs: roomy(g.Clubs)}
-			impl.AlikeIn(first, second)
-			wantUntouched(t, "AlikeIn", first.Clubs, f.Clubs)
-			wantUntouched(t, "AlikeIn", second.Clubs, g.Clubs)
-		}
-	}
+	wantBothUntouched(t, "AlikeIn", func(f, g impl.Family) { impl.AlikeIn(f, g) })
 }

@@ -11,6 +11,7 @@ import (
 type outcome struct {
 	members int
 	list    []int
+	lists   [][]int
 	number  int
 	ok      bool
 }
@@ -23,12 +24,39 @@ func ofList(list []int, ok bool) outcome {
 	return outcome{list: list, ok: ok}
 }
 
+// ofFamilies has the numbers of members of the families as its list.
+func ofFamilies(all []impl.Family, ok bool) outcome {
+	made := outcome{ok: ok}
+	for _, f := range all {
+		made.list = append(made.list, f.Members)
+		made.lists = append(made.lists, f.Clubs)
+	}
+	return made
+}
+
 func ofNumber(number int, ok bool) outcome {
 	return outcome{number: number, ok: ok}
 }
 
 func (o outcome) same(p outcome) bool {
-	return o.members == p.members && o.number == p.number && o.ok == p.ok && slices.Equal(o.list, p.list)
+	return o.members == p.members && o.number == p.number && o.ok == p.ok &&
+		slices.Equal(o.list, p.list) && slices.EqualFunc(o.lists, p.lists, slices.Equal)
+}
+
+// kept shares no memory with the result, so that what happens to that can be seen.
+func (o outcome) kept() outcome {
+	o.list, o.lists = slices.Clone(o.list), slices.Clone(o.lists)
+	for place, list := range o.lists {
+		o.lists[place] = slices.Clone(list)
+	}
+	return o
+}
+
+func (o outcome) spoil() {
+	spoil(o.list)
+	for _, list := range o.lists {
+		spoil(list)
+	}
 }
 
 type familyCall struct {
@@ -38,7 +66,7 @@ type familyCall struct {
 
 // everyCall has the calls of all chapters built so far: what is tested of one is tested of all.
 func everyCall() []familyCall {
-	return slices.Concat(familyCalls(), alikeCalls())
+	return slices.Concat(familyCalls(), alikeCalls(), tableCalls())
 }
 
 func TestCallsFailForNoFamilies(t *testing.T) {
@@ -63,7 +91,7 @@ func wantFailed(t *testing.T, what string, o outcome) {
 	if o.ok {
 		t.Errorf("%s succeeds", what)
 	}
-	if o.members != 0 || len(o.list) != 0 || o.number != 0 {
+	if o.members != 0 || len(o.list) != 0 || len(o.lists) != 0 || o.number != 0 {
 		t.Errorf("%s fails, but other results are not zero values: %v", what, o)
 	}
 }

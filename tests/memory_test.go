@@ -40,6 +40,20 @@ func wantUntouched(t *testing.T, what string, list, before []int) {
 	}
 }
 
+func wantBothUntouched(t *testing.T, what string, call func(f, g impl.Family)) {
+	t.Helper()
+	families := append(memoryFamilies(), impl.Family{Members: 3, Clubs: []int{9, 1}}, impl.Family{})
+	for _, f := range families {
+		for _, g := range families {
+			first := impl.Family{Members: f.Members, Clubs: roomy(f.Clubs)}
+			second := impl.Family{Members: g.Members, Clubs: roomy(g.Clubs)}
+			call(first, second)
+			wantUntouched(t, what, first.Clubs, f.Clubs)
+			wantUntouched(t, what, second.Clubs, g.Clubs)
+		}
+	}
+}
+
 // memoryFamilies need no change by some of the functions: there a result is most easily the argument itself.
 func memoryFamilies() []impl.Family {
 	return append(edgeFamilies(),
@@ -56,7 +70,7 @@ func TestCallsLeaveArgumentsAlone(t *testing.T) {
 			given := impl.Family{Members: f.Members, Clubs: roomy(f.Clubs)}
 			made := c.call(given)
 			wantUntouched(t, c.name, given.Clubs, f.Clubs)
-			spoil(made.list)
+			made.spoil()
 			wantUntouched(t, c.name+" with its result written over", given.Clubs, f.Clubs)
 		}
 	}
@@ -84,15 +98,30 @@ func TestResultsShareNoMemory(t *testing.T) {
 	for _, f := range memoryFamilies() {
 		for _, c := range everyCall() {
 			first := c.call(f)
-			kept := first
-			kept.list = slices.Clone(first.list)
+			kept := first.kept()
 			second := c.call(f)
-			spoil(first.list)
+			first.spoil()
 			if !second.same(kept) {
 				t.Errorf("%s of %v shares memory with an earlier result", c.name, f)
 			}
 			if third := c.call(f); !third.same(kept) {
 				t.Errorf("%s of %v keeps state between calls", c.name, f)
+			}
+		}
+	}
+}
+
+func TestListsOfOneResultShareNoMemory(t *testing.T) {
+	for _, f := range memoryFamilies() {
+		for _, c := range everyCall() {
+			for place := range c.call(f).lists {
+				made := c.call(f)
+				want := made.kept()
+				spoil(made.lists[place])
+				want.lists[place] = made.lists[place]
+				if !made.same(want) {
+					t.Errorf("%s of %v has lists that share memory", c.name, f)
+				}
 			}
 		}
 	}
@@ -104,8 +133,7 @@ func TestResultsDoNotFollowArguments(t *testing.T) {
 		for _, c := range everyCall() {
 			given := impl.Family{Members: f.Members, Clubs: roomy(f.Clubs)}
 			made := c.call(given)
-			kept := made
-			kept.list = slices.Clone(made.list)
+			kept := made.kept()
 			spoil(given.Clubs)
 			if !made.same(kept) {
 				t.Errorf("%s of %v follows its argument", c.name, f)
