@@ -98,6 +98,11 @@ func (f Family) full() club {
 	return 1<<f.Members - 1
 }
 
+// places is the set of the places of all clubs.
+func (f Family) places() club {
+	return 1<<len(f.Clubs) - 1
+}
+
 // clubs yields copies: what ranges over it cannot change the argument's clubs.
 func (f Family) clubs() iter.Seq2[int, club] {
 	return func(yield func(int, club) bool) {
@@ -139,6 +144,15 @@ func (f Family) simple() Family {
 	slices.Sort(made.Clubs)
 	made.Clubs = slices.Compact(made.Clubs)
 	return made
+}
+
+// least and other take lists of more than ClubsMax sets, too.
+func (f Family) least() Family {
+	return f.without(func(other, c club) bool { return other.partOf(c) })
+}
+
+func (f Family) other() Family {
+	return f.mapped(func(c club) club { return f.full() &^ c })
 }
 
 // reached grows until no club adds a member, because a club may lead on to clubs ahead of it.
@@ -246,7 +260,7 @@ func FamilyLeast(f Family) (Family, bool) {
 	if !FamilyIn(f) {
 		return Family{}, false
 	}
-	return f.without(func(other, c club) bool { return other.partOf(c) }), true
+	return f.least(), true
 }
 
 // FamilyGreatest returns the family of those clubs that are no part of another one, each one once, in ascending order, and true.
@@ -262,7 +276,7 @@ func FamilyOther(f Family) (Family, bool) {
 	if !FamilyIn(f) {
 		return Family{}, false
 	}
-	return f.mapped(func(c club) club { return f.full() &^ c }), true
+	return f.other(), true
 }
 
 // FamilyAll returns the set of all members of some club, and true.

@@ -66,7 +66,7 @@ type familyCall struct {
 
 // everyCall has the calls of all chapters built so far: what is tested of one is tested of all.
 func everyCall() []familyCall {
-	return slices.Concat(familyCalls(), alikeCalls(), tableCalls())
+	return slices.Concat(familyCalls(), alikeCalls(), tableCalls(), coverCalls())
 }
 
 func TestCallsFailForNoFamilies(t *testing.T) {
@@ -77,8 +77,9 @@ func TestCallsFailForNoFamilies(t *testing.T) {
 	}
 }
 
+// The family has no empty club, because some calls fail just by that.
 func TestCallsSucceed(t *testing.T) {
-	f := impl.Family{Members: 4, Clubs: []int{3, 0, 12, 12}}
+	f := impl.Family{Members: 4, Clubs: []int{3, 5, 12, 12}}
 	for _, c := range everyCall() {
 		if !c.call(f).ok {
 			t.Errorf("%s fails for %v", c.name, f)
