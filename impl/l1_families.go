@@ -103,6 +103,15 @@ func (f Family) places() club {
 	return 1<<len(f.Clubs) - 1
 }
 
+// together has all members of the clubs at some places.
+func (f Family) together(places club) club {
+	var all club
+	for place := range places.members() {
+		all |= club(f.Clubs[place])
+	}
+	return all
+}
+
 // clubs yields copies: what ranges over it cannot change the argument's clubs.
 func (f Family) clubs() iter.Seq2[int, club] {
 	return func(yield func(int, club) bool) {
@@ -284,11 +293,7 @@ func FamilyAll(f Family) (int, bool) {
 	if !FamilyIn(f) {
 		return 0, false
 	}
-	var all club
-	for _, c := range f.clubs() {
-		all |= c
-	}
-	return int(all), true
+	return int(f.together(f.places())), true
 }
 
 // FamilyCommon returns the set of the members that all clubs have, all members if there is no club, and true.
