@@ -160,8 +160,20 @@ func (f Family) least() Family {
 	return f.without(func(other, c club) bool { return other.partOf(c) })
 }
 
+func (f Family) greatest() Family {
+	return f.without(func(other, c club) bool { return c.partOf(other) })
+}
+
 func (f Family) other() Family {
 	return f.mapped(func(c club) club { return f.full() &^ c })
+}
+
+func (f Family) only(set club) Family {
+	return f.mapped(func(c club) club { return c & set })
+}
+
+func (f Family) takenOut(member int) Family {
+	return f.only(f.full().without(member))
 }
 
 // reached grows until no club adds a member, because a club may lead on to clubs ahead of it.
@@ -237,7 +249,7 @@ func FamilyMeet(f Family, set int) (Family, bool) {
 	if !FamilyIn(f) || !setIn(f.Members, set) {
 		return Family{}, false
 	}
-	return f.mapped(func(c club) club { return c & club(set) }), true
+	return f.only(club(set)), true
 }
 
 // FamilyPut returns the family with a set put behind its clubs, and true.
@@ -277,7 +289,7 @@ func FamilyGreatest(f Family) (Family, bool) {
 	if !FamilyIn(f) {
 		return Family{}, false
 	}
-	return f.without(func(other, c club) bool { return c.partOf(other) }), true
+	return f.greatest(), true
 }
 
 // FamilyOther returns the family that has, for each club, the set of all other members, and true.
