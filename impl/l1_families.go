@@ -176,6 +176,17 @@ func (f Family) takenOut(member int) Family {
 	return f.only(f.full().without(member))
 }
 
+// turned has clubs as members, and members as clubs. Of more clubs than MembersMax, or none, it makes what is no family, but has pairs and tied sets all the same.
+func (f Family) turned() Family {
+	made := make([]int, f.Members)
+	for place, c := range f.clubs() {
+		for member := range c.members() {
+			made[member] = int(club(made[member]).with(place))
+		}
+	}
+	return Family{Members: len(f.Clubs), Clubs: made}
+}
+
 // reached grows until no club adds a member, because a club may lead on to clubs ahead of it.
 func (f Family) reached(from club) club {
 	for {
@@ -235,13 +246,7 @@ func FamilyDual(f Family) (Family, bool) {
 	if !FamilyIn(f) || len(f.Clubs) < 1 || len(f.Clubs) > MembersMax {
 		return Family{}, false
 	}
-	turned := make([]int, f.Members)
-	for place, c := range f.clubs() {
-		for member := range c.members() {
-			turned[member] = int(club(turned[member]).with(place))
-		}
-	}
-	return Family{Members: len(f.Clubs), Clubs: turned}, true
+	return f.turned(), true
 }
 
 // FamilyMeet returns the family whose clubs have only those members of each club that are in a set, and true.

@@ -149,18 +149,27 @@ func areRound(f impl.Family, members []int) bool {
 	return len(met) == len(members)
 }
 
-func triedByPairs(f impl.Family) bool {
+// triedFull asks each set of members of clubs.
+func triedFull(f impl.Family) bool {
 	ofClubs := membersWith(f, func(member int) bool {
 		return slices.ContainsFunc(f.Clubs, func(set int) bool { return isIn(set, member) })
 	})
 	for set := 1; set < 1<<f.Members; set++ {
-		members := listed(f, set)
 		inClub := slices.ContainsFunc(f.Clubs, func(club int) bool { return isPart(set, club) })
-		if isPart(set, ofClubs) && areTied(f, members) && !inClub || areRound(f, members) {
+		if isPart(set, ofClubs) && areTied(f, listed(f, set)) && !inClub {
 			return false
 		}
 	}
 	return true
+}
+
+func triedByPairs(f impl.Family) bool {
+	for set := range 1 << f.Members {
+		if areRound(f, listed(f, set)) {
+			return false
+		}
+	}
+	return triedFull(f)
 }
 
 // leaves takes out one member after the other, as they are told.
