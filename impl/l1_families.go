@@ -176,6 +176,14 @@ func (f Family) takenOut(member int) Family {
 	return f.only(f.full().without(member))
 }
 
+func (f Family) sizes() []int {
+	sizes := make([]int, 0, len(f.Clubs))
+	for _, c := range f.clubs() {
+		sizes = append(sizes, c.size())
+	}
+	return sizes
+}
+
 // turned has clubs as members, and members as clubs. Of more clubs than MembersMax, or none, it makes what is no family, but has pairs and tied sets all the same.
 func (f Family) turned() Family {
 	made := make([]int, f.Members)
@@ -234,11 +242,7 @@ func FamilySizes(f Family) ([]int, bool) {
 	if !FamilyIn(f) {
 		return nil, false
 	}
-	sizes := make([]int, 0, len(f.Clubs))
-	for _, c := range f.clubs() {
-		sizes = append(sizes, c.size())
-	}
-	return sizes, true
+	return f.sizes(), true
 }
 
 // FamilyDual returns the family whose members are the places of the clubs of a family, and whose clubs are, for each member in order, the set of the clubs that have it, and true.

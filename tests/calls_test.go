@@ -66,7 +66,7 @@ type familyCall struct {
 
 // everyCall has the calls of all chapters built so far: what is tested of one is tested of all.
 func everyCall() []familyCall {
-	return slices.Concat(familyCalls(), alikeCalls(), tableCalls(), coverCalls(), speakerCalls(), earCalls(), colourCalls(), meetCalls())
+	return slices.Concat(familyCalls(), alikeCalls(), tableCalls(), coverCalls(), speakerCalls(), earCalls(), colourCalls(), meetCalls(), rankCalls())
 }
 
 func TestCallsFailForNoFamilies(t *testing.T) {
@@ -77,11 +77,12 @@ func TestCallsFailForNoFamilies(t *testing.T) {
 	}
 }
 
-// The family has no empty club and as many clubs as members, because some calls fail just by that. Where it has speakers, SpeakerBad has to fail.
+// The family has no empty club and as many clubs as members, because some calls fail just by that. Where it has speakers, SpeakerBad has to fail, and equal clubs have no answer by which they differ.
 func TestCallsSucceed(t *testing.T) {
 	f := impl.Family{Members: 4, Clubs: []int{3, 5, 12, 12}}
+	failing := []string{"SpeakerBad", "RankOdd", "RankSame"}
 	for _, c := range everyCall() {
-		if c.call(f).ok == (c.name == "SpeakerBad") {
+		if c.call(f).ok == slices.Contains(failing, c.name) {
 			t.Errorf("%s of %v tells %v", c.name, f, c.call(f).ok)
 		}
 	}
