@@ -66,7 +66,7 @@ type familyCall struct {
 
 // everyCall has the calls of all chapters built so far: what is tested of one is tested of all.
 func everyCall() []familyCall {
-	return slices.Concat(familyCalls(), alikeCalls(), tableCalls(), coverCalls(), speakerCalls(), earCalls(), colourCalls(), meetCalls(), rankCalls())
+	return slices.Concat(familyCalls(), alikeCalls(), tableCalls(), coverCalls(), speakerCalls(), earCalls(), colourCalls(), meetCalls(), rankCalls(), countCalls())
 }
 
 func TestCallsFailForNoFamilies(t *testing.T) {
